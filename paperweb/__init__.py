@@ -1,0 +1,1 @@
+"""A web of paper, measured section by section."""
