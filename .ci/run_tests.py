@@ -44,6 +44,7 @@ def run_file(path):
     if failed == 0 and (ran == 0 or done.returncode != 0):
         print(f"{path}: ended with {done.returncode} after {ran} tests", flush=True)
         failed = 1
+    # unittest counts each part of a test that fails, so these can be more than the tests that ran.
     return max(ran - failed - skipped, 0), failed, skipped
 
 

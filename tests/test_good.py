@@ -30,11 +30,11 @@ class Unchangeable(list):
 
 class GoodCase(unittest.TestCase):
     def check(self, expected, lo, hi, sections):
-        with self.subTest(lo=lo, hi=hi, sections=sections):
-            answer = good(lo, hi, sections)
-            self.assertEqual(answer, expected)
-            self.assertIs(type(answer), list)
-            self.assertEqual({type(number) for number in answer}, {int})
+        asked = f"good({lo}, {hi}, {sections})"
+        answer = good(lo, hi, sections)
+        self.assertEqual(answer, expected, asked)
+        self.assertIs(type(answer), list, asked)
+        self.assertEqual({type(number) for number in answer}, {int}, asked)
 
 
 class Ordinary(GoodCase):
