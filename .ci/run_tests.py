@@ -41,7 +41,7 @@ def run_file(path):
     print(f"== {path}\n{done.stdout}{done.stderr}", flush=True)
     ran, failed, skipped = read_counts(done.stderr)
     # A file without a test, or one that broke off, must not look as if it had passed.
-    if failed == 0 and (ran == 0 or done.returncode != 0):
+    if failed == 0 and (ran + skipped == 0 or done.returncode != 0):
         print(f"{path}: ended with {done.returncode} after {ran} tests", flush=True)
         failed = 1
     # unittest counts each part of a test that fails, so these can be more than the tests that ran.
