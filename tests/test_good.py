@@ -1,15 +1,10 @@
 """Tests of paperweb.rolls.good: promise 1, what it says of all calls and of good."""
 
-import contextlib
-import inspect
-import io
 import itertools
 import unittest
 
+from helpers import MOST, REFUSAL, AnswerCase, ByItself, Interface
 from paperweb.rolls import good
-
-MOST = 4294967295
-REFUSAL = [-22]
 
 
 def told(lo, hi, sections):
@@ -18,23 +13,8 @@ def told(lo, hi, sections):
     return [len(which), sum(2 ** k for k in which)]
 
 
-class Unchangeable(list):
-    """A list that raises when it is changed, even if it were changed back later."""
-
-    def refuse(self, *args, **kwargs):
-        raise AssertionError("what was handed in was changed")
-
-    append = clear = extend = insert = pop = remove = reverse = sort = refuse
-    __setitem__ = __delitem__ = __iadd__ = __imul__ = refuse
-
-
-class GoodCase(unittest.TestCase):
-    def check(self, expected, lo, hi, sections):
-        asked = f"good({lo}, {hi}, {sections})"
-        answer = good(lo, hi, sections)
-        self.assertEqual(answer, expected, asked)
-        self.assertIs(type(answer), list, asked)
-        self.assertEqual({type(number) for number in answer}, {int}, asked)
+class GoodCase(AnswerCase):
+    ASK = good
 
 
 class Ordinary(GoodCase):
@@ -162,7 +142,7 @@ class Refused(GoodCase):
             self.check(REFUSAL, lo, hi, sections)
 
 
-class EachCallByItself(GoodCase):
+class GoodByItself(ByItself, GoodCase):
     CALLS = (
         (100, 200, [150, 99, 100, 200, 201]),
         (0, 1000, [500] * 40),
@@ -174,29 +154,6 @@ class EachCallByItself(GoodCase):
         (0, MOST, [500]),
     )
 
-    def test_what_was_handed_in_is_as_it_was(self):
-        for lo, hi, sections in self.CALLS:
-            handed = list(sections)
-            good(lo, hi, handed)
-            self.assertEqual(handed, sections)
-
-    def test_what_was_handed_in_is_not_changed_for_a_while(self):
-        for lo, hi, sections in self.CALLS:
-            self.check(good(lo, hi, sections), lo, hi, Unchangeable(sections))
-
-    def test_asked_twice(self):
-        first = [good(lo, hi, list(sections)) for lo, hi, sections in self.CALLS]
-        again = [good(lo, hi, list(sections)) for lo, hi, sections in reversed(self.CALLS)]
-        self.assertEqual(first, again[::-1])
-
-    def test_a_changed_answer_is_not_kept(self):
-        for lo, hi, sections in self.CALLS:
-            answer = good(lo, hi, sections)
-            expected = list(answer)
-            answer.append(7)
-            answer[0] = 7
-            self.assertEqual(good(lo, hi, sections), expected)
-
     def test_a_changed_list_is_read_anew(self):
         sections = [150, 99]
         self.assertEqual(good(100, 200, sections), [1, 1])
@@ -205,21 +162,12 @@ class EachCallByItself(GoodCase):
         sections.clear()
         self.assertEqual(good(100, 200, sections), REFUSAL)
 
-    def test_nothing_is_printed(self):
-        printed = io.StringIO()
-        with contextlib.redirect_stdout(printed), contextlib.redirect_stderr(printed):
-            for lo, hi, sections in self.CALLS:
-                good(lo, hi, sections)
-        self.assertEqual(printed.getvalue(), "")
 
+class GoodInterface(Interface, GoodCase):
+    PARAMETERS = ("lo", "hi", "sections")
 
-class Interface(GoodCase):
-    def test_names_and_order_of_what_is_handed_in(self):
-        self.assertEqual(str(inspect.signature(good)), "(lo, hi, sections)")
+    def test_called_by_names(self):
         self.assertEqual(good(sections=[3, 9], hi=5, lo=2), [1, 1])
-
-    def test_written_in_the_file_that_its_name_tells(self):
-        self.assertEqual(good.__module__, "paperweb.rolls")
 
 
 if __name__ == "__main__":
