@@ -1,4 +1,4 @@
-"""What the measured sections of a web tell: which of them are good."""
+"""What the measured sections of a web tell: which of them are good, and how they spread."""
 
 MOST_SECTIONS = 40
 MOST_MEASURED = 1000
@@ -32,3 +32,9 @@ def good(lo, hi, sections):
             bits += bit
         bit *= 2
     return [how_many, bits]
+
+
+def spread(sections):
+    if not is_web(sections):
+        return [REFUSED]
+    return [sum(sections) // len(sections), min(sections), max(sections)]
