@@ -1,7 +1,8 @@
-"""What the measured sections of a web tell: which of them are good, and how they spread."""
+"""What the measured sections of a web tell: which of them are good, how they spread, and what runs they form."""
 
 MOST_SECTIONS = 40
 MOST_MEASURED = 1000
+MOST_LEAST_LENGTH = 20
 REFUSED = -22
 
 
@@ -13,6 +14,10 @@ def is_web(sections):
 
 def are_limits(lo, hi):
     return lo <= hi <= MOST_MEASURED
+
+
+def is_least_length(p):
+    return 1 <= p <= MOST_LEAST_LENGTH
 
 
 def is_good(lo, hi, measured):
@@ -38,3 +43,25 @@ def spread(sections):
     if not is_web(sections):
         return [REFUSED]
     return [sum(sections) // len(sections), min(sections), max(sections)]
+
+
+def split_at_gaps(places):
+    parts = []
+    for place in places:
+        if parts and parts[-1][-1] + 1 == place:
+            parts[-1].append(place)
+        else:
+            parts.append([place])
+    return parts
+
+
+def find_long_runs(lo, hi, p, sections):
+    places = [place for place, measured in enumerate(sections) if is_good(lo, hi, measured)]
+    return [run for run in split_at_gaps(places) if len(run) >= p]
+
+
+def runs(lo, hi, p, sections):
+    if not is_web(sections) or not are_limits(lo, hi) or not is_least_length(p):
+        return [REFUSED]
+    lengths = [len(run) for run in find_long_runs(lo, hi, p, sections)]
+    return [len(lengths), max(lengths, default=0), sum(lengths)]

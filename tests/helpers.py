@@ -3,10 +3,37 @@
 import contextlib
 import inspect
 import io
+import itertools
 import unittest
+
+from paperweb.rolls import runs
 
 MOST = 4294967295
 REFUSAL = [-22]
+LO, HI = 100, 200
+WRONG_WEBS = tuple({"sections": sections} for sections in (
+    [], [150] * 41, [150] * 44, [1001], [MOST], [150, 1001], [1001, 150], [150] * 39 + [MOST]))
+WRONG_LIMITS = tuple({"lo": lo, "hi": hi} for lo, hi in (
+    (HI + 1, HI), (LO, LO - 1), (1, 0), (MOST, HI), (1001, 1000), (0, 1001), (LO, MOST), (1001, 1001), (MOST, MOST)))
+
+
+def web(marks):
+    """A web told by signs: # is a section that is good from LO to HI, any other sign is a bad one."""
+    good_ones = itertools.cycle((LO, 150, HI))
+    bad_ones = itertools.cycle((LO - 1, HI + 1, 0, 1000))
+    return [next(good_ones if mark == "#" else bad_ones) for mark in marks]
+
+
+def all_marks(longest):
+    """The signs of every web of at most so many sections."""
+    for length in range(1, longest + 1):
+        yield from map("".join, itertools.product("#.", repeat=length))
+
+
+def find_usable(lo, hi, p, sections):
+    """Which sections are usable by what runs answers: without one of these there are fewer. 0 has to be bad."""
+    before = runs(lo, hi, p, sections)[2]
+    return {k for k in range(len(sections)) if runs(lo, hi, p, sections[:k] + [0] + sections[k + 1:])[2] < before}
 
 
 class Unchangeable(list):
@@ -69,6 +96,35 @@ class ByItself:
             for *numbers, sections in self.CALLS:
                 self.ask(*numbers, list(sections))
         self.assertEqual(printed.getvalue(), "")
+
+
+class Refuses:
+    """What is refused: the call RIGHT, told by names, with changes made to it.
+
+    Each group in WRONG holds changes of the same names, so two of one group can't be made at once.
+    """
+
+    RIGHT = {}
+    WRONG = ()
+
+    def check_refused(self, *changes):
+        handed = dict(self.RIGHT)
+        for change in changes:
+            handed.update(change)
+        self.check(REFUSAL, *handed.values())
+
+    def test_what_is_right_is_not_refused(self):
+        self.assertNotEqual(self.ask(*self.RIGHT.values()), REFUSAL)
+
+    def test_each_by_itself(self):
+        for change in itertools.chain(*self.WRONG):
+            self.check_refused(change)
+
+    def test_several_at_once(self):
+        for how_many in range(2, len(self.WRONG) + 1):
+            for groups in itertools.combinations(self.WRONG, how_many):
+                for changes in itertools.product(*groups):
+                    self.check_refused(*changes)
 
 
 class Interface:
