@@ -1,8 +1,10 @@
-"""What the measured sections of a web tell: which of them are good, how they spread, and what runs they form."""
+"""What the measured sections of a web tell: the good ones, their spread, their runs, the rolls cut of them."""
 
 MOST_SECTIONS = 40
 MOST_MEASURED = 1000
 MOST_LEAST_LENGTH = 20
+MOST_JOINS = 5
+MOST_TOGETHER = 40
 REFUSED = -22
 
 
@@ -18,6 +20,10 @@ def are_limits(lo, hi):
 
 def is_least_length(p):
     return 1 <= p <= MOST_LEAST_LENGTH
+
+
+def are_roll_numbers(j, n):
+    return j <= MOST_JOINS and 1 <= n <= MOST_TOGETHER
 
 
 def is_good(lo, hi, measured):
@@ -65,3 +71,32 @@ def runs(lo, hi, p, sections):
         return [REFUSED]
     lengths = [len(run) for run in find_long_runs(lo, hi, p, sections)]
     return [len(lengths), max(lengths, default=0), sum(lengths)]
+
+
+def find_usable(lo, hi, p, sections):
+    usable = []
+    for run in find_long_runs(lo, hi, p, sections):
+        usable.extend(run)
+    return usable
+
+
+def may_be_cut(p, j, roll):
+    pieces = split_at_gaps(roll)
+    return len(pieces) <= j + 1 and min([len(piece) for piece in pieces]) >= p
+
+
+def rolls(lo, hi, p, j, n, sections):
+    if not is_web(sections) or not are_limits(lo, hi) or not is_least_length(p) or not are_roll_numbers(j, n):
+        return [REFUSED]
+    usable = find_usable(lo, hi, p, sections)
+    begins = []
+    ahead = 0
+    # All rolls are n long, so the one that begins first also ends first: to cut it at once costs no later roll.
+    while ahead + n <= len(usable):
+        roll = usable[ahead:ahead + n]
+        if may_be_cut(p, j, roll):
+            begins.append(roll[0])
+            ahead += n
+        else:
+            ahead += 1
+    return [len(begins)] + begins

@@ -26,7 +26,12 @@ OWN_NAMES = set("""
 WORDS_LEFT_OUT = re.compile(
     r"\b(?:type|typing|typing_extensions|enum|Enum|IntEnum|StrEnum|Flag|IntFlag|Generic|Protocol|ABC|ABCMeta"
     r"|namedtuple|NamedTuple|TypedDict|TYPE_CHECKING|abstractmethod)\b|dataclass|overload|contextmanager")
-INTERFACE = {"good": ["lo", "hi", "sections"], "spread": ["sections"], "runs": ["lo", "hi", "p", "sections"]}
+INTERFACE = {
+    "good": ["lo", "hi", "sections"],
+    "spread": ["sections"],
+    "runs": ["lo", "hi", "p", "sections"],
+    "rolls": ["lo", "hi", "p", "j", "n", "sections"],
+}
 
 
 def files():
